@@ -650,14 +650,27 @@ func spoil[T any](list []T, fill T) {
 	}
 }
 
-func TestNetworksAreNotModifiedOrShared(t *testing.T) {
+// allNets returns networks that are valid and others that are not.
+func allNets() []impl.Net {
 	nets := goodNets()
 	for _, b := range badNets() {
 		nets = append(nets, b.net)
 	}
-	for _, plain := range nets {
-		n := impl.Net{Nodes: roomy(plain.Nodes, pt(77777, 0)), Arcs: roomy(plain.Arcs, arc(-9, -9, -9))}
-		before := impl.Net{Nodes: wholeOf(n.Nodes), Arcs: wholeOf(n.Arcs)}
+	return nets
+}
+
+// roomyNet returns a copy of a network with spare capacity, and what reports whether this copy is still the same.
+func roomyNet(plain impl.Net) (impl.Net, func() bool) {
+	n := impl.Net{Nodes: roomy(plain.Nodes, pt(77777, 0)), Arcs: roomy(plain.Arcs, arc(-9, -9, -9))}
+	nodes, arcs := wholeOf(n.Nodes), wholeOf(n.Arcs)
+	return n, func() bool {
+		return slices.Equal(nodes, wholeOf(n.Nodes)) && slices.Equal(arcs, wholeOf(n.Arcs))
+	}
+}
+
+func TestNetworksAreNotModifiedOrShared(t *testing.T) {
+	for _, plain := range allNets() {
+		n, unchanged := roomyNet(plain)
 		if impl.NetOk(n) != impl.NetOk(plain) || impl.NetText(n) != impl.NetText(plain) {
 			t.Fatalf("the spare capacity behind %v counts", plain)
 		}
@@ -673,7 +686,7 @@ func TestNetworksAreNotModifiedOrShared(t *testing.T) {
 		turned := impl.Turned(n)
 		spoil(turned.Nodes, pt(-3, -3))
 		spoil(turned.Arcs, arc(-3, -3, -3))
-		if !slices.Equal(before.Nodes, wholeOf(n.Nodes)) || !slices.Equal(before.Arcs, wholeOf(n.Arcs)) {
+		if !unchanged() {
 			t.Fatalf("%v was changed to %v", plain, n)
 		}
 	}
